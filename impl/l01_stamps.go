@@ -72,6 +72,15 @@ func dividedUp(a int64, b int64) int64 {
 	return (a + b - 1) / b
 }
 
+// dividedDown takes a b above 0 alone.
+func dividedDown(a int64, b int64) int64 {
+	n := a / b
+	if a%b < 0 {
+		n--
+	}
+	return n
+}
+
 func highestFirst(n int64, count int) iter.Seq[byte] {
 	return func(yield func(byte) bool) {
 		for at := count - 1; at >= 0; at-- {
